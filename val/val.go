@@ -23,11 +23,22 @@ func Check(v api.Val) error {
 	switch {
 	case !isType(v.Type) || v.Type == api.Bool && v.N != 0 && v.N != 1:
 		return api.ErrRange
+	case v.Type == api.Text:
+		return checkText(v)
+	case v.S != "":
+		return api.ErrShape
+	}
+	return nil
+}
+
+// checkText stands apart from Check, as how long S may be, and of which bytes, is a matter of a Text alone.
+func checkText(v api.Val) error {
+	switch {
 	case len(v.S) > api.MaxText:
 		return api.ErrFull
 	case !hasTextBytes(v.S):
 		return api.ErrSyntax
-	case v.Type != api.Text && v.S != "" || v.Type == api.Text && v.N != 0:
+	case v.N != 0:
 		return api.ErrShape
 	}
 	return nil
@@ -101,7 +112,7 @@ func parseInt(text string) (api.Val, error) {
 
 func parseText(text string) (api.Val, error) {
 	s, ok := unquote(text)
-	// Unlike in Check the bytes go first: a text is too long only if nothing else is wrong with it.
+	// Unlike in checkText the bytes go first: a text is too long only if nothing else is wrong with it.
 	if !ok || !hasTextBytes(s) {
 		return api.Val{}, api.ErrSyntax
 	}

@@ -81,10 +81,13 @@ var faulty = []struct {
 	{"too long, a byte, a number", api.Val{Type: api.Text, N: 1, S: "\x1f" + long(40)}, api.ErrFull},
 	{"too long, a number", api.Val{Type: api.Text, N: 1, S: long(41)}, api.ErrFull},
 	{"a byte, a number", api.Val{Type: api.Text, N: 1, S: "\x1f"}, api.ErrSyntax},
-	{"int with a long text", api.Val{Type: api.Int, S: long(41)}, api.ErrFull},
-	{"bool with a long text", api.Val{Type: api.Bool, S: long(41)}, api.ErrFull},
-	{"int with a byte", api.Val{Type: api.Int, S: "\x7f"}, api.ErrSyntax},
-	{"bool with a byte", api.Val{Type: api.Bool, S: "\x1f"}, api.ErrSyntax},
+	{"int with a long text", api.Val{Type: api.Int, S: long(41)}, api.ErrShape},
+	{"bool with a long text", api.Val{Type: api.Bool, S: long(41)}, api.ErrShape},
+	{"int with a byte", api.Val{Type: api.Int, S: "\x7f"}, api.ErrShape},
+	{"bool with a byte", api.Val{Type: api.Bool, S: "\x1f"}, api.ErrShape},
+	{"int with a long text and a byte", api.Val{Type: api.Int, N: 5, S: long(41) + "\x80"}, api.ErrShape},
+	{"bool with a long text and a byte", api.Val{Type: api.Bool, N: 1, S: "\n" + long(100_000)}, api.ErrShape},
+	{"bool 2 with a byte", api.Val{Type: api.Bool, N: 2, S: "\x7f"}, api.ErrRange},
 }
 
 // TestCheckSound is of V1: what a value may be.
