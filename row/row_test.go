@@ -453,7 +453,7 @@ func TestPrintSchemaFaulty(t *testing.T) {
 	}
 }
 
-// TestParseSchemaFaulty is of R2 and P3: texts without the form, and with it Schema's errors.
+// TestParseSchemaFaulty is of R2 and P3: texts without the form, whatever Schema would say beside, and with it Schema's errors.
 func TestParseSchemaFaulty(t *testing.T) {
 	six := "a int,b bool,c text,d int,e bool,f text"
 	for _, c := range []struct {
@@ -469,7 +469,10 @@ func TestParseSchemaFaulty(t *testing.T) {
 		{six + ",g int", api.ErrFull}, {six + ",g int,h int", api.ErrFull}, {six + ",a int", api.ErrFull}, {strings.Repeat("a int,", 20_000) + "a int", api.ErrFull},
 
 		{"a int,a int,b", api.ErrSyntax}, {six + ",g", api.ErrSyntax}, {six + ",g int,", api.ErrSyntax}, {six + ",g int,h int,i real", api.ErrSyntax}, {strings.Repeat("a int,", 20_000), api.ErrSyntax},
-		{"A int,a int,a int", api.ErrSyntax}, {"a int,a int,A int", api.ErrClash}, {six + ",A int", api.ErrFull}, {"A int," + six, api.ErrFull},
+
+		{"A int,a int,a int", api.ErrSyntax}, {"a int,A int,a int", api.ErrSyntax}, {"a int,a int,A int", api.ErrSyntax}, {"a int,a int, int", api.ErrSyntax}, {"a int,a int,abcdefghi int", api.ErrSyntax}, {"a int,a int,a1 int", api.ErrSyntax}, {"A int,A int", api.ErrSyntax},
+		{"A int," + six, api.ErrSyntax}, {six + ",A int", api.ErrSyntax}, {six + ", int", api.ErrSyntax}, {six + ",g int,h int,\x00 int", api.ErrSyntax}, {six + ",a int,\xff int", api.ErrSyntax}, {strings.Repeat("a int,", 20_000) + "A int", api.ErrSyntax},
+		{"abcdefgh int,abcdefgh int", api.ErrClash}, {"abcdefgh int," + six, api.ErrFull},
 	} {
 		if l, err := row.ParseSchema(c.text); len(l) != 0 || plain.Told(err) != c.want {
 			t.Errorf("ParseSchema(%.100q): %v, %v, want %v", c.text, l, err, c.want)
