@@ -71,7 +71,7 @@ func (r *reader) product() (api.Expr, bool) {
 }
 
 func (r *reader) negation() (api.Expr, bool) {
-	return r.oneAhead(opNeg, oneOf("-"), r.negation, r.operand)
+	return r.oneAhead(OpNeg, oneOf("-"), r.negation, r.operand)
 }
 
 // several reads parts from the left, as long as a sign stands behind.
@@ -113,10 +113,10 @@ func (r *reader) operand() (api.Expr, bool) {
 	}
 	if t, ok := r.take(isValue); ok {
 		v, _ := val.Parse(t.Text)
-		return api.Expr{Op: opVal, Val: v, At: t.At}, true
+		return api.Expr{Op: OpVal, Val: v, At: t.At}, true
 	}
 	if t, ok := r.take(func(t api.Token) bool { return isColumn(t.Text) }); ok {
-		return api.Expr{Op: opCol, Name: t.Text, At: t.At}, true
+		return api.Expr{Op: OpCol, Name: t.Text, At: t.At}, true
 	}
 	args, ok := r.bracketed(1)
 	if !ok {

@@ -21,7 +21,7 @@ const quote = '\''
 // Check tells what is wrong with a value.
 func Check(v api.Val) error {
 	switch {
-	case !isType(v.Type) || v.Type == api.Bool && v.N != 0 && v.N != 1:
+	case !IsType(v.Type) || v.Type == api.Bool && v.N != 0 && v.N != 1:
 		return api.ErrRange
 	case v.Type == api.Text:
 		return checkText(v)
@@ -44,7 +44,8 @@ func checkText(v api.Val) error {
 	return nil
 }
 
-func isType(t int) bool {
+// IsType tells whether a number is a type of values.
+func IsType(t int) bool {
 	return t == api.Int || t == api.Bool || t == api.Text
 }
 

@@ -108,6 +108,16 @@ func TestCheckFaulty(t *testing.T) {
 	}
 }
 
+// TestIsType is of V1: a value of that type may be, or none.
+func TestIsType(t *testing.T) {
+	for _, n := range append(edges(), 4, 5, 6, 256+1, 1<<32+1) {
+		want := n == api.Int || n == api.Bool || n == api.Text
+		if got := val.IsType(n); got != want {
+			t.Errorf("IsType(%d): %v", n, got)
+		}
+	}
+}
+
 // TestCheckBytes is of V1: every byte, at every place of a text.
 func TestCheckBytes(t *testing.T) {
 	for b := 0; b < 256; b++ {
