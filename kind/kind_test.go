@@ -162,6 +162,21 @@ func TestRuleMany(t *testing.T) {
 	holdRule(t, "nor", make([]int, 100_000), 0, api.ErrRange)
 }
 
+// TestCount is of Y1, P1 and P3: each Op has as many Args as its rules, and what is no Op has none.
+func TestCount(t *testing.T) {
+	for _, o := range operations {
+		want := strings.Index(o.rules, ">")
+		if got, err := kind.Count(o.op); got != want || err != nil {
+			t.Errorf("Count(%q): %d, %v, want %d", o.op, got, err, want)
+		}
+	}
+	for _, o := range []string{"", " ", "val", "col", "nor", "OR", "or ", "=<", "==", "ne", "\x00", strings.Repeat("or", 100_000)} {
+		if got, err := kind.Count(o); got != 0 || plain.Told(err) != api.ErrRange {
+			t.Errorf("Count(%.50q): %d, %v, want ErrRange", o, got, err)
+		}
+	}
+}
+
 // TestOps is of Y1: these 17, in this order, each of which has a rule, and is an Op of an expression.
 func TestOps(t *testing.T) {
 	holdOps(t)
