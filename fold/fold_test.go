@@ -437,7 +437,7 @@ func holdSteps(t *testing.T, r *rand.Rand, e api.Expr, l []api.Col, rows ...[]ap
 	}
 }
 
-// TestChoices is of O1: all of `or`, `and`, `if`, `not` and `=` of all of these again, of a column, of false and true, and of what goes over.
+// TestChoices is of O1: all of `or`, `and`, `not` and `=` of all of these again, of a column, of false and true, and of what goes over; and `if` with one of those, or another `if`, at each place.
 func TestChoices(t *testing.T) {
 	r := rand.New(rand.NewSource(1))
 	leaves := []api.Expr{col("b"), is(truth(0)), is(truth(1)), over()}
