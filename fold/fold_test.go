@@ -88,7 +88,7 @@ func alike(a, b api.Expr) bool {
 	return a.Op == b.Op && a.Name == b.Name && a.Val == b.Val && a.At == b.At && slices.EqualFunc(a.Args, b.Args, alike)
 }
 
-// madeShort is what one rule of O1 makes of a node itself; false: none has anything to say of it.
+// madeShort is what one rule of O1 makes of a node itself, At and all; false: none has anything to say of it.
 func madeShort(e api.Expr) (api.Expr, bool) {
 	var args []api.Val
 	for _, a := range e.Args {
@@ -98,7 +98,7 @@ func madeShort(e api.Expr) (api.Expr, bool) {
 	}
 	if len(e.Args) > 0 && len(args) == len(e.Args) {
 		v, err := eval.Do(e.Op, args)
-		return is(v), err == nil && v.N >= 0
+		return api.Expr{Op: "val", Val: v, At: e.At}, err == nil && v.N >= 0
 	}
 	first := func() api.Expr { return e.Args[0] }
 	switch {
@@ -114,12 +114,9 @@ func madeShort(e api.Expr) (api.Expr, bool) {
 	return api.Expr{}, false
 }
 
-// steps are all that one rule, at one node, makes of an expression.
+// steps are all that one rule, at one node, makes of an expression, where each node comes behind its Args.
 func steps(e api.Expr) []api.Expr {
 	var all []api.Expr
-	if s, ok := madeShort(e); ok {
-		all = append(all, s)
-	}
 	for i, a := range e.Args {
 		for _, s := range steps(a) {
 			n := e
@@ -127,19 +124,25 @@ func steps(e api.Expr) []api.Expr {
 			all = append(all, n)
 		}
 	}
+	if s, ok := madeShort(e); ok {
+		all = append(all, s)
+	}
 	return all
 }
 
-// stepwise makes an expression short again and again, each time at a node by chance, until no rule has anything to say.
-func stepwise(r *rand.Rand, e api.Expr) api.Expr {
+// stepwise makes an expression short again and again, each time by that one of the steps which is picked out of so many, until no rule has anything to say.
+func stepwise(e api.Expr, pick func(n int) int) api.Expr {
 	for {
 		all := steps(e)
 		if len(all) == 0 {
 			return e
 		}
-		e = all[r.Intn(len(all))]
+		e = all[pick(len(all))]
 	}
 }
+
+// theFirst of so many.
+func theFirst(int) int { return 0 }
 
 // comes is what an expression comes to of a row, in each of the ways that there are.
 func comes(t *testing.T, e api.Expr, l []api.Col, r []api.Val) (api.Val, api.Errno) {
@@ -428,13 +431,15 @@ func countOf(op string) int {
 	return 2
 }
 
-// holdSteps is of what hold does, and of the rules done one by one.
+// holdSteps is of what hold does, and of the rules done one by one, at nodes by chance; with At, from the first on.
 func holdSteps(t *testing.T, r *rand.Rand, e api.Expr, l []api.Col, rows ...[]api.Val) {
 	t.Helper()
 	got := hold(t, e, l, rows...)
-	if want := stepwise(r, e); !tree.Same(got, want) {
+	if want := stepwise(e, r.Intn); !tree.Same(got, want) {
 		t.Errorf("Fold(%s): %s, want %s", written(e), written(got), written(want))
 	}
+	next := r.Intn(9) - 4
+	holdAt(t, numbered(e, &next), l)
 }
 
 // TestChoices is of O1: all of `or`, `and`, `not` and `=` of all of these again, of a column, of false and true, and of what goes over; and `if` with one of those, or another `if`, at each place.
@@ -499,7 +504,7 @@ func places(e api.Expr) []int {
 	return l
 }
 
-// TestAt is of O1: what stays has the At that it had; a value that takes a node's place has the node's.
+// TestAt is of O1: what stays, or is chosen, has the At that it had; a value that Do says has the node's.
 func TestAt(t *testing.T) {
 	for _, c := range []struct {
 		text string
@@ -520,34 +525,122 @@ func TestAt(t *testing.T) {
 		{"1 / (3 - 3)", []int{2, 0, 7}},
 		{"len('ab') = i", []int{10, 0, 12}},
 		{"if(true, 1, 2)", []int{0}},
-		{" if(true, 1, i)", []int{1}},
-		{" if(false, i, 1 + 1)", []int{1}},
+		{" if(true, 1, i)", []int{10}},
+		{" if(false, i, 1 + 1)", []int{16}},
 		{"if(true, i, 1)", []int{9}},
 		{"if(false, i, i + 1)", []int{15, 13, 17}},
 		{"if(b, 1, 1 + 1)", []int{0, 3, 6, 11}},
 		{"true and b", []int{9}},
-		{"false and b", []int{6}},
-		{"true or b", []int{5}},
+		{"false and b", []int{0}},
+		{"true or b", []int{0}},
 		{"false or b", []int{9}},
 		{"false or not b", []int{9, 13}},
 		{"true and i = 0", []int{11, 9, 13}},
 		{"true and (false and b)", []int{5}},
-		{"b and (false and b)", []int{2, 0, 13}},
+		{"b and (false and b)", []int{2, 0, 7}},
 		{"b and (true and neg)", []int{2, 0, 16}},
 		{"not not b", []int{8}},
 		{"not not (b or neg)", []int{11, 9, 14}},
-		{"if(true, if(true, 3, i), i) + i", []int{28, 0, 30}},
+		{"if(true, if(true, 3, i), i) + i", []int{28, 18, 30}},
+
+		// Of several ways the one where each node comes behind its Args.
+		{"not not not b", []int{0, 12}},
+		{"if(true, 3, 1 + 2)", []int{0}},
+		{"false and (true or b)", []int{6}},
 	} {
 		got, err := fold.Fold(read(t, c.text), columns())
 		if err != nil || !slices.Equal(places(got), c.want) {
 			t.Errorf("Fold of %q: %s at %v, %v, want %v", c.text, written(got), places(got), err, c.want)
 		}
 	}
-	// Of three `not`s any one may stay.
-	got, _ := fold.Fold(read(t, "not not not b"), columns())
-	if l := places(got); len(l) != 2 || l[0] != 0 && l[0] != 4 && l[0] != 8 || l[1] != 12 {
-		t.Errorf("Fold of three: %s at %v", written(got), l)
+}
+
+// put is an expression that stands elsewhere.
+func put(at int, e api.Expr) api.Expr {
+	e.At = at
+	return e
+}
+
+// holdPlaced is of an expression, and of what it comes to, At and all, behind each other.
+func holdPlaced(t *testing.T, pairs [][2]api.Expr) {
+	t.Helper()
+	for n, c := range pairs {
+		e, want := c[0], c[1]
+		if got := hold(t, e, columns(), rows()...); !alike(got, want) {
+			t.Errorf("%d: Fold(%s): %s at %v, want %s at %v", n, written(e), written(got), places(got), written(want), places(want))
+		}
 	}
+}
+
+// TestChosenAt is of O1: what an `and`, `or` or `if` comes to that is one of its Args is as it was, At and all, wherever that stands.
+func TestChosenAt(t *testing.T) {
+	yes, no, three, it := is(truth(1)), is(truth(0)), is(number(3)), is(words("it's"))
+	b, i, s := col("b"), col("i"), col("t")
+	sum := put(6, op("+", put(9, i), put(1, three)))
+	holdPlaced(t, [][2]api.Expr{
+		// A value.
+		{put(4, op("if", put(8, no), put(5, i), put(2, is(number(0))))), put(2, is(number(0)))},
+		{put(4, op("if", put(8, yes), put(5, it), put(2, s))), put(5, it)},
+		{put(6, op("and", put(1, no), put(9, b))), put(1, no)},
+		{put(6, op("or", put(9, yes), put(1, b))), put(9, yes)},
+		{put(math.MaxInt, op("or", put(math.MinInt, yes), put(-1, b))), put(math.MinInt, yes)},
+		{put(0, op("if", put(-1, no), put(1, i), put(math.MaxInt, three))), put(math.MaxInt, three)},
+		{put(7, op("if", yes, three, i)), three},
+
+		// A value, though another Arg stays that has none but values: what goes over, or is below 0.
+		{put(4, op("and", put(8, no), over())), put(8, no)},
+		{put(4, op("or", put(8, yes), over())), put(8, yes)},
+		{put(4, op("if", put(8, yes), put(2, three), op("neg", three))), put(2, three)},
+		{put(4, op("if", put(8, no), op("/", three, is(number(0))), put(2, three))), put(2, three)},
+
+		// A column.
+		{put(4, op("if", put(8, yes), put(5, i), put(2, three))), put(5, i)},
+		{put(4, op("if", put(8, no), put(5, it), put(2, s))), put(2, s)},
+		{put(6, op("and", put(1, yes), put(9, b))), put(9, b)},
+		{put(6, op("or", put(9, no), put(1, b))), put(1, b)},
+
+		// An operation.
+		{put(4, op("if", put(8, yes), sum, put(2, three))), sum},
+		{put(4, op("if", put(8, no), put(2, three), sum)), sum},
+		{put(6, op("and", put(1, yes), put(9, op("not", put(3, b))))), put(9, op("not", put(3, b)))},
+		{put(6, op("or", put(1, no), put(9, op("=", put(3, b), put(2, yes))))), put(9, op("=", put(3, b), put(2, yes)))},
+		{put(4, op("if", put(8, yes), put(7, op("neg", put(1, three))), put(2, three))), put(7, op("neg", put(1, three)))},
+
+		// One inside the other.
+		{put(4, op("if", put(8, yes), put(7, op("if", put(3, no), put(5, i), put(2, three))), put(6, i))), put(2, three)},
+		{put(4, op("if", put(8, no), put(6, i), put(7, op("if", put(3, yes), put(5, i), put(2, three))))), put(5, i)},
+		{put(4, op("if", put(8, no), put(6, i), put(7, op("if", put(3, yes), sum, put(2, three))))), sum},
+		{put(4, op("and", put(8, op("or", put(3, yes), put(7, b))), put(6, b))), put(6, b)},
+		{put(4, op("or", put(8, op("and", put(3, op("or", put(2, yes), put(7, b))), put(5, b))), put(6, b))), put(4, op("or", put(5, b), put(6, b)))},
+		{put(4, op("and", put(8, op("and", put(3, op("and", put(2, no), put(7, b))), put(5, b))), put(6, b))), put(2, no)},
+		{put(4, op("if", put(8, op("or", put(1, yes), b)), put(7, op("and", put(3, no), put(5, b))), put(6, b))), put(3, no)},
+	})
+}
+
+// TestSaidAt is of O1: a value that Do says has the At of the node that it stands for, and keeps it where it is chosen behind that.
+func TestSaidAt(t *testing.T) {
+	yes, no, three, it := is(truth(1)), is(truth(0)), is(number(3)), is(words("it's"))
+	b, i, s := col("b"), col("i"), col("t")
+	holdPlaced(t, [][2]api.Expr{
+		// Behind one that Do says, which has the At of its own node, and ahead of one.
+		{put(4, op("if", put(8, op("=", put(1, three), put(2, three))), put(7, it), put(6, s))), put(7, it)},
+		{put(4, op("and", put(8, op("not", put(1, yes))), put(7, b))), put(8, no)},
+		{put(4, op("or", put(8, op("<", put(1, no), put(2, yes))), put(7, b))), put(8, yes)},
+		{put(4, op("if", put(8, yes), put(7, op("+", put(1, three), put(2, three))), put(6, i))), put(7, is(number(6)))},
+		{put(4, op("if", put(8, op("not", no)), put(7, op("len", put(1, it))), put(6, i))), put(7, is(number(4)))},
+		{put(4, op("neg", put(8, op("if", put(1, no), put(2, i), put(3, is(number(0))))))), put(4, is(number(0)))},
+		{put(4, op("+", put(8, op("if", put(1, yes), put(2, three), put(3, i))), put(6, three))), put(4, is(number(6)))},
+		{put(4, op("+", put(8, op("if", put(1, yes), put(2, three), put(3, i))), put(6, i))), put(4, op("+", put(2, three), put(6, i)))},
+		{put(4, op("not", put(8, op("and", put(1, no), put(2, b))))), put(4, yes)},
+
+		// Do says it, where all Args are values, or have become some.
+		{put(4, op("if", put(8, yes), put(5, three), put(2, is(number(0))))), put(4, three)},
+		{put(4, op("and", put(8, no), put(5, yes))), put(4, no)},
+		{put(4, op("or", put(8, yes), put(5, yes))), put(4, yes)},
+		{put(4, op("if", put(8, yes), put(5, three), put(2, op("+", put(1, three), put(7, three))))), put(4, three)},
+		{put(4, op("and", put(8, no), put(5, op("or", put(1, yes), put(7, b))))), put(4, no)},
+		{put(4, op("if", put(8, yes), put(7, op("if", put(3, yes), put(5, three), put(2, three))), put(6, i))), put(7, three)},
+	})
 }
 
 // numbered gives each node an At of its own, rising from the first, ahead of those of its Args.
@@ -562,42 +655,43 @@ func numbered(e api.Expr, next *int) api.Expr {
 	return e
 }
 
-// family is a node of an expression, and the one whose Arg it is.
-type family struct {
-	node, above api.Expr
-}
-
-// families are those of all nodes, by At.
-func families(e, above api.Expr, all map[int]family) {
-	all[e.At] = family{e, above}
+// byPlace are all nodes of an expression by At.
+func byPlace(e api.Expr, all map[int]api.Expr) {
+	all[e.At] = e
 	for _, a := range e.Args {
-		families(a, e, all)
+		byPlace(a, all)
 	}
 }
 
-// holdAt tells of each node of what came of an expression with an At each, from which it came.
+// holdAt tells of each node of what came of an expression with an At each, from which it came, and holds it against the rules done from the first node on, each behind its Args.
 func holdAt(t *testing.T, e api.Expr, l []api.Col) {
 	t.Helper()
 	got, err := fold.Fold(e, l)
 	if err != nil {
 		t.Fatalf("Fold(%s): %v", written(e), err)
 	}
+	if want := stepwise(e, theFirst); !alike(got, want) {
+		t.Errorf("Fold(%s): %s at %v, want %s at %v", written(e), written(got), places(got), written(want), places(want))
+	}
 	if !slices.IsSorted(places(got)) {
 		t.Errorf("Fold(%s): %s at %v", written(e), written(got), places(got))
 	}
-	from, to := map[int]family{}, map[int]family{}
-	families(e, api.Expr{}, from)
-	families(got, api.Expr{}, to)
+	from, to := map[int]api.Expr{}, map[int]api.Expr{}
+	byPlace(e, from)
+	byPlace(got, to)
 	if len(to) != tree.Size(got) {
 		t.Errorf("Fold(%s): %s at %v", written(e), written(got), places(got))
 	}
 	for at, n := range to {
 		was, ok := from[at]
-		if same, _ := fold.Fold(was.node, l); !ok || !alike(same, n.node) || n.node.Op != "val" && n.node.Op != was.node.Op {
-			t.Errorf("Fold(%s): %s at %d was %s", written(e), written(n.node), at, written(was.node))
+		if same, _ := fold.Fold(was, l); !ok || !alike(same, n) || n.Op != "val" && n.Op != was.Op {
+			t.Errorf("Fold(%s): %s at %d was %s", written(e), written(n), at, written(was))
 		}
-		if above, _ := fold.Fold(was.above, l); n.node.Op == "val" && above.Op == "val" {
-			t.Errorf("Fold(%s): %s has not the place of %s", written(e), written(n.node), written(was.above))
+		// Do says nothing of an operation before all its Args have come to values.
+		for _, a := range was.Args {
+			if of, _ := fold.Fold(a, l); n.Op == "val" && of.Op != "val" {
+				t.Errorf("Fold(%s): %s has the place of %s", written(e), written(n), written(was))
+			}
 		}
 	}
 }
@@ -660,8 +754,6 @@ func TestSome(t *testing.T) {
 		}
 		vals := [][]api.Val{someRow(r, l), someRow(r, l), someRow(r, l)}
 		holdSteps(t, r, e, l, vals...)
-		next := r.Intn(9) - 4
-		holdAt(t, numbered(e, &next), l)
 		got, _ := fold.Fold(e, l)
 		if again, f := tree.Parse(written(got)); f.How != api.ErrFull && (f.How != api.OK || !tree.Same(got, again)) {
 			t.Errorf("Fold(%s): %s is read as %s, %v", written(e), written(got), written(again), f)
