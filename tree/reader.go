@@ -4,25 +4,44 @@ import (
 	"slices"
 
 	"sluicebook/api"
+	"sluicebook/lex"
 	"sluicebook/val"
 )
 
-// reader reads tokens from the left. Where a reading is false, the first token that cannot stand there is still ahead.
-type reader struct {
+// Reader reads the tokens of a text from the left. Where a reading is false, the first token that cannot stand there is still ahead.
+type Reader struct {
 	ahead []api.Token
+	end   int
 }
 
-// place is where the token ahead stands; of none: the end.
-func (r *reader) place(end int) int {
-	if len(r.ahead) == 0 {
-		return end
+// NewReader is of a text, not of tokens, as those of a text are never too many for calls that go as deep as they do.
+func NewReader(text string) (*Reader, api.Fault) {
+	l, fault := lex.Tokens(text)
+	if fault.How != api.OK {
+		return nil, fault
+	}
+	return &Reader{ahead: l, end: len(text)}, api.Fault{}
+}
+
+// Ended tells whether no token is ahead.
+func (r *Reader) Ended() bool { return len(r.ahead) == 0 }
+
+// Place is where the token ahead stands; of none: the length of the text.
+func (r *Reader) Place() int {
+	if r.Ended() {
+		return r.end
 	}
 	return r.ahead[0].At
 }
 
-// take takes the token ahead if it is so.
-func (r *reader) take(so func(t api.Token) bool) (api.Token, bool) {
-	if len(r.ahead) == 0 || !so(r.ahead[0]) {
+// Next tells whether it is so of the token ahead.
+func (r *Reader) Next(so func(t api.Token) bool) bool {
+	return !r.Ended() && so(r.ahead[0])
+}
+
+// Take takes the token ahead if it is so.
+func (r *Reader) Take(so func(t api.Token) bool) (api.Token, bool) {
+	if !r.Next(so) {
 		return api.Token{}, false
 	}
 	t := r.ahead[0]
@@ -30,31 +49,36 @@ func (r *reader) take(so func(t api.Token) bool) (api.Token, bool) {
 	return t, true
 }
 
-// oneOf tells tokens by their text alone: no two kinds have one in common.
-func oneOf(texts ...string) func(t api.Token) bool {
+// OneOf tells tokens by their text alone: no two kinds have one in common.
+func OneOf(texts ...string) func(t api.Token) bool {
 	return func(t api.Token) bool { return slices.Contains(texts, t.Text) }
 }
 
 // Each of these readings is of one line of the grammar, the loosest first, and hands on to the next.
 
-func (r *reader) expression() (api.Expr, bool) {
-	return r.several(r.conjunction, oneOf("or"))
+// Expression reads one, as far as it goes.
+func (r *Reader) Expression() (api.Expr, bool) {
+	e, ok := r.several(r.conjunction, OneOf("or"))
+	if !ok {
+		return api.Expr{}, false
+	}
+	return e, true
 }
 
-func (r *reader) conjunction() (api.Expr, bool) {
-	return r.several(r.denial, oneOf("and"))
+func (r *Reader) conjunction() (api.Expr, bool) {
+	return r.several(r.denial, OneOf("and"))
 }
 
-func (r *reader) denial() (api.Expr, bool) {
-	return r.oneAhead("not", oneOf("not"), r.denial, r.comparison)
+func (r *Reader) denial() (api.Expr, bool) {
+	return r.oneAhead("not", OneOf("not"), r.denial, r.comparison)
 }
 
-func (r *reader) comparison() (api.Expr, bool) {
+func (r *Reader) comparison() (api.Expr, bool) {
 	left, ok := r.sum()
 	if !ok {
 		return api.Expr{}, false
 	}
-	t, ok := r.take(oneOf("=", "<>", "<", "<=", ">", ">="))
+	t, ok := r.Take(OneOf("=", "<>", "<", "<=", ">", ">="))
 	if !ok {
 		return left, true
 	}
@@ -62,23 +86,23 @@ func (r *reader) comparison() (api.Expr, bool) {
 	return between(left, t, right), ok
 }
 
-func (r *reader) sum() (api.Expr, bool) {
-	return r.several(r.product, oneOf("+", "-"))
+func (r *Reader) sum() (api.Expr, bool) {
+	return r.several(r.product, OneOf("+", "-"))
 }
 
-func (r *reader) product() (api.Expr, bool) {
-	return r.several(r.negation, oneOf("*", "/", "%"))
+func (r *Reader) product() (api.Expr, bool) {
+	return r.several(r.negation, OneOf("*", "/", "%"))
 }
 
-func (r *reader) negation() (api.Expr, bool) {
-	return r.oneAhead(OpNeg, oneOf("-"), r.negation, r.operand)
+func (r *Reader) negation() (api.Expr, bool) {
+	return r.oneAhead(OpNeg, OneOf("-"), r.negation, r.operand)
 }
 
 // several reads parts from the left, as long as a sign stands behind.
-func (r *reader) several(part func() (api.Expr, bool), isSign func(t api.Token) bool) (api.Expr, bool) {
+func (r *Reader) several(part func() (api.Expr, bool), isSign func(t api.Token) bool) (api.Expr, bool) {
 	e, ok := part()
 	for ok {
-		t, more := r.take(isSign)
+		t, more := r.Take(isSign)
 		if !more {
 			break
 		}
@@ -95,8 +119,8 @@ func between(left api.Expr, t api.Token, right api.Expr) api.Expr {
 }
 
 // oneAhead reads a sign and what it is of; without the sign it reads what else may stand there.
-func (r *reader) oneAhead(op string, isSign func(t api.Token) bool, of, other func() (api.Expr, bool)) (api.Expr, bool) {
-	t, ok := r.take(isSign)
+func (r *Reader) oneAhead(op string, isSign func(t api.Token) bool, of, other func() (api.Expr, bool)) (api.Expr, bool) {
+	t, ok := r.Take(isSign)
 	if !ok {
 		return other()
 	}
@@ -105,17 +129,17 @@ func (r *reader) oneAhead(op string, isSign func(t api.Token) bool, of, other fu
 }
 
 // operand reads what has no sign of its own ahead or between.
-func (r *reader) operand() (api.Expr, bool) {
-	if t, ok := r.take(oneOf("len", "if")); ok {
+func (r *Reader) operand() (api.Expr, bool) {
+	if t, ok := r.Take(OneOf("len", "if")); ok {
 		n, _ := argsOf(t.Text)
 		args, ok := r.bracketed(n)
 		return api.Expr{Op: t.Text, Args: args, At: t.At}, ok
 	}
-	if t, ok := r.take(isValue); ok {
+	if t, ok := r.Take(isValue); ok {
 		v, _ := val.Parse(t.Text)
 		return api.Expr{Op: OpVal, Val: v, At: t.At}, true
 	}
-	if t, ok := r.take(func(t api.Token) bool { return isColumn(t.Text) }); ok {
+	if t, ok := r.Take(func(t api.Token) bool { return IsName(t.Text) }); ok {
 		return api.Expr{Op: OpCol, Name: t.Text, At: t.At}, true
 	}
 	args, ok := r.bracketed(1)
@@ -132,22 +156,22 @@ func isValue(t api.Token) bool {
 }
 
 // bracketed reads so many expressions in ( and ), with a comma between.
-func (r *reader) bracketed(n int) ([]api.Expr, bool) {
+func (r *Reader) bracketed(n int) ([]api.Expr, bool) {
 	var args []api.Expr
 	for i := range n {
 		opening := "("
 		if i > 0 {
 			opening = ","
 		}
-		if _, ok := r.take(oneOf(opening)); !ok {
+		if _, ok := r.Take(OneOf(opening)); !ok {
 			return nil, false
 		}
-		e, ok := r.expression()
+		e, ok := r.Expression()
 		if !ok {
 			return nil, false
 		}
 		args = append(args, e)
 	}
-	_, ok := r.take(oneOf(")"))
+	_, ok := r.Take(OneOf(")"))
 	return args, ok
 }

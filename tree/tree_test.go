@@ -376,6 +376,92 @@ func TestFaults(t *testing.T) {
 	}
 }
 
+// TestReader is of T1: an expression is read as far as it goes, and what stands behind it is ahead; where none is read, nothing is beside, and the first token that cannot stand there is ahead.
+func TestReader(t *testing.T) {
+	for _, c := range []struct {
+		text  string
+		want  api.Expr
+		ok    bool
+		place int
+	}{
+		{"a as b", col("a", 0), true, 2},
+		{" a + 1 as b", op("+", 3, col("a", 1), number(1, 5)), true, 7},
+		{"a < b < c", op("<", 2, col("a", 0), col("b", 4)), true, 6},
+		{"a)", col("a", 0), true, 1},
+		{"(a), b", col("a", 1), true, 3},
+		{"a  ", col("a", 0), true, 3},
+		{"", api.Expr{}, false, 0},
+		{"  ", api.Expr{}, false, 2},
+		{"as b", api.Expr{}, false, 0},
+		{"a + as", api.Expr{}, false, 4},
+		{"a or not as", api.Expr{}, false, 9},
+		{"a = - ", api.Expr{}, false, 6},
+		{"if(a, b) as", api.Expr{}, false, 7},
+		{"len(a as", api.Expr{}, false, 6},
+		{"(a as", api.Expr{}, false, 3},
+		{"(a", api.Expr{}, false, 2},
+	} {
+		r, f := tree.NewReader(c.text)
+		if f != (api.Fault{}) {
+			t.Fatalf("NewReader(%q): %v", c.text, f)
+		}
+		if e, ok := r.Expression(); !alike(e, c.want) || ok != c.ok {
+			t.Errorf("Expression of %q: %v, %v, want %v, %v", c.text, e, ok, c.want, c.ok)
+		}
+		if r.Place() != c.place || r.Ended() != (c.place == len(c.text)) {
+			t.Errorf("behind the expression of %q: %d, %v, want %d", c.text, r.Place(), r.Ended(), c.place)
+		}
+	}
+	for _, c := range faulty {
+		_, want := lex.Tokens(c.text)
+		if r, f := tree.NewReader(c.text); f != want || (r == nil) != (f != api.Fault{}) {
+			t.Errorf("NewReader(%.100q): %v, want %v", c.text, f, want)
+		}
+	}
+}
+
+// TestReaderTokens is of T1: tokens are taken from the left, each once, and only if they are so.
+func TestReaderTokens(t *testing.T) {
+	const text = " select a,'b' 7 "
+	r, f := tree.NewReader(text)
+	l, _ := lex.Tokens(text)
+	if f != (api.Fault{}) || len(l) != 5 {
+		t.Fatalf("NewReader(%q): %v, %v", text, f, l)
+	}
+	for _, want := range l {
+		if r.Ended() || r.Place() != want.At {
+			t.Errorf("ahead of %v: %v, %d", want, r.Ended(), r.Place())
+		}
+		if got, ok := r.Take(tree.OneOf("from", want.Text+"x", "")); ok || got != (api.Token{}) || r.Next(tree.OneOf()) {
+			t.Errorf("Take of another than %v: %v, %v", want, got, ok)
+		}
+		if !r.Next(tree.OneOf("from", want.Text)) || !r.Next(func(k api.Token) bool { return k == want }) {
+			t.Errorf("Next is not %v", want)
+		}
+		if got, ok := r.Take(tree.OneOf("from", want.Text)); !ok || got != want {
+			t.Errorf("Take of %v: %v, %v", want, got, ok)
+		}
+	}
+	all := func(api.Token) bool { return true }
+	if got, ok := r.Take(all); ok || got != (api.Token{}) || r.Next(all) || !r.Ended() || r.Place() != len(text) {
+		t.Errorf("at the end: %v, %v, %v, %d", got, ok, r.Ended(), r.Place())
+	}
+}
+
+// TestIsName is of T1 and T2: 1 to MaxName letters, and no word of the language.
+func TestIsName(t *testing.T) {
+	for _, s := range []string{"a", "z", "abcdefgh", "val", "col", "neg", "ors", "o", "selects"} {
+		if !tree.IsName(s) {
+			t.Errorf("IsName(%q): false", s)
+		}
+	}
+	for _, s := range append([]string{"", "abcdefghi", long(1_000), "a1", "1", "A", "a b", "'a'", "(", "\u00e9", "\xff"}, languageWords...) {
+		if tree.IsName(s) {
+			t.Errorf("IsName(%.100q): true", s)
+		}
+	}
+}
+
 // TestLanguageWords is of T1 and T2: no word of the language is a column, wherever one would stand, nor in Check; what is nearly one is a column.
 func TestLanguageWords(t *testing.T) {
 	for _, w := range languageWords {
