@@ -116,15 +116,15 @@ func typeOfGroup(name string, ahead []string, l []api.Col) (int, error) {
 
 func typeOfAgg(a api.Agg, l []api.Col) (int, error) {
 	switch {
-	case !isAgg(a.What):
+	case !IsAgg(a.What):
 		return 0, api.ErrSyntax
-	case a.What == count && !isNothing(a.Of):
+	case a.What == Count && !isNothing(a.Of):
 		return 0, api.ErrShape
-	case a.What == count:
+	case a.What == Count:
 		return api.Int, nil
 	}
 	t, err := typeOf(a.Of, l)
-	if err == nil && a.What == sum && t != api.Int {
+	if err == nil && a.What == Sum && t != api.Int {
 		return 0, api.ErrType
 	}
 	return t, err

@@ -5,6 +5,7 @@ import (
 	"math/rand"
 	"runtime/debug"
 	"slices"
+	"strings"
 	"testing"
 
 	"sluicebook/api"
@@ -18,6 +19,23 @@ import (
 func TestNumbers(t *testing.T) {
 	if api.MaxSpan != 1000 || api.MaxCols != 6 || api.MaxName != 8 || api.MaxQuery != 400 {
 		t.Error("another number")
+	}
+}
+
+// TestIsAgg is of Q1: the four that may be, each by its name.
+func TestIsAgg(t *testing.T) {
+	if query.Count != "count" || query.Sum != "sum" || query.Least != "least" || query.Most != "most" {
+		t.Error("another name")
+	}
+	for _, what := range []string{"count", "sum", "least", "most"} {
+		if !query.IsAgg(what) {
+			t.Errorf("%q is none", what)
+		}
+		for _, near := range []string{"", what[1:], what[:len(what)-1], what + "s", " " + what, what + " ", strings.ToUpper(what), what + what} {
+			if query.IsAgg(near) {
+				t.Errorf("%q is one", near)
+			}
+		}
 	}
 }
 

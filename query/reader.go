@@ -27,7 +27,7 @@ func (r *reader) items() bool {
 	return r.several(r.col)
 }
 
-func beginsAgg(t api.Token) bool { return isAgg(t.Text) }
+func beginsAgg(t api.Token) bool { return IsAgg(t.Text) }
 
 func (r *reader) col() bool {
 	var e api.Expr
@@ -44,7 +44,7 @@ func (r *reader) agg() bool {
 		return false
 	}
 	a := api.Agg{What: t.Text}
-	ok = (a.What == count || r.bracketed(&a.Of)) && r.as(&a.Name)
+	ok = (a.What == Count || r.bracketed(&a.Of)) && r.as(&a.Name)
 	r.q.Aggs = append(r.q.Aggs, a)
 	return ok
 }

@@ -69,7 +69,7 @@ func (w *writer) col(e api.Expr, name string) {
 
 func (w *writer) agg(a api.Agg) {
 	w.put(a.What)
-	if a.What != count {
+	if a.What != Count {
 		w.put("(")
 		w.expression(a.Of)
 		w.put(")")

@@ -49,6 +49,12 @@ func IsType(t int) bool {
 	return t == api.Int || t == api.Bool || t == api.Text
 }
 
+// Fresh is a value, right or wrong, whose text shares no memory with what was handed in.
+func Fresh(v api.Val) api.Val {
+	v.S = strings.Clone(v.S)
+	return v
+}
+
 func hasTextBytes(s string) bool {
 	for i := 0; i < len(s); i++ {
 		if s[i] < firstByte || s[i] > lastByte {

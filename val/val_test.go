@@ -6,6 +6,7 @@ import (
 	"strconv"
 	"strings"
 	"testing"
+	"unsafe"
 
 	"sluicebook/api"
 	"sluicebook/plain"
@@ -114,6 +115,19 @@ func TestIsType(t *testing.T) {
 		want := n == api.Int || n == api.Bool || n == api.Text
 		if got := val.IsType(n); got != want {
 			t.Errorf("IsType(%d): %v", n, got)
+		}
+	}
+}
+
+// TestFresh is of P2: it is the same value, right or wrong, with a text of its own.
+func TestFresh(t *testing.T) {
+	for _, v := range []api.Val{{}, {Type: 1, N: -5}, {Type: 2, N: 1}, {Type: 3, S: "it's"}, {Type: 9, N: 9, S: "\n\xff"}} {
+		got := val.Fresh(v)
+		if got != v {
+			t.Errorf("Fresh(%v): %v", v, got)
+		}
+		if v.S != "" && unsafe.StringData(got.S) == unsafe.StringData(v.S) {
+			t.Errorf("Fresh(%v): it shares memory", v)
 		}
 	}
 }
