@@ -60,7 +60,7 @@ func goTogether(q api.Query) bool {
 }
 
 func checkWhere(e api.Expr, l []api.Col) error {
-	if isNothing(e) {
+	if IsNothing(e) {
 		return nil
 	}
 	t, err := typeOf(e, l)
@@ -118,7 +118,7 @@ func typeOfAgg(a api.Agg, l []api.Col) (int, error) {
 	switch {
 	case !IsAgg(a.What):
 		return 0, api.ErrSyntax
-	case a.What == Count && !isNothing(a.Of):
+	case a.What == Count && !IsNothing(a.Of):
 		return 0, api.ErrShape
 	case a.What == Count:
 		return api.Int, nil

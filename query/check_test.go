@@ -39,6 +39,20 @@ func TestIsAgg(t *testing.T) {
 	}
 }
 
+// TestIsNothing is of Q1 and Q3: what is nothing is so by its Op alone.
+func TestIsNothing(t *testing.T) {
+	for _, e := range []api.Expr{{}, {Name: "a", At: 3}, {Val: api.Val{Type: api.Int, N: 1}}, {Args: []api.Expr{col("a", 0)}}} {
+		if !query.IsNothing(e) {
+			t.Errorf("%v is something", e)
+		}
+	}
+	for _, e := range []api.Expr{{Op: "nor"}, {Op: " "}, {Op: "\x00"}, col("a", 0), number(0, 0), op("not", 0, truth(0, 0))} {
+		if query.IsNothing(e) {
+			t.Errorf("%v is nothing", e)
+		}
+	}
+}
+
 // TestCheck is of Q3: the columns of what comes, of columns and of a group.
 func TestCheck(t *testing.T) {
 	for _, c := range []struct {

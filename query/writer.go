@@ -24,7 +24,7 @@ func write(q api.Query) string {
 		w.several(min(len(q.Cols), len(q.Names)), func(i int) { w.col(q.Cols[i], q.Names[i]) })
 	}
 	w.put(" from ", q.From)
-	if !isNothing(q.Where) {
+	if !IsNothing(q.Where) {
 		w.put(" where ")
 		w.expression(q.Where)
 	}
