@@ -3,6 +3,7 @@ package batch
 import (
 	"cmp"
 	"slices"
+	"strings"
 
 	"sluicebook/api"
 	"sluicebook/row"
@@ -27,21 +28,23 @@ func timePlace(l []api.Col) (int, error) {
 // grouping puts rows to their groups, in all windows that hold them, and tells of a window when no row can come to it any more.
 type grouping struct {
 	sieve       sieve
-	at          int   // the place of the time in a row
-	places      []int // those of the group's columns
-	aggs        []api.Agg
-	types       []int // those of aggs
+	at          int       // the place of the time in a row
+	places      []int     // those of the group's columns
+	aggs        []api.Agg // their What alone: what they are of stands in the sieve
+	types       []int     // those of aggs
 	size, slide int
 	last        int     // the time of the last row that had its time in order
 	open        []*span // those that have rows and were not told, rising
 }
 
 func newGrouping(q api.Query, l, comes []api.Col, at int) *grouping {
-	g := &grouping{at: at, aggs: q.Aggs, size: q.Size, slide: q.Slide}
-	g.sieve = sieve{cols: l, where: q.Where}
+	g := &grouping{at: at, size: q.Size, slide: q.Slide}
+	var ofs []api.Expr
 	for _, a := range q.Aggs {
-		g.sieve.exprs = append(g.sieve.exprs, a.Of)
+		ofs = append(ofs, a.Of)
+		g.aggs = append(g.aggs, api.Agg{What: strings.Clone(a.What)})
 	}
+	g.sieve = newSieve(q.Where, ofs, l)
 	for _, name := range q.Group {
 		place, _ := row.Find(l, name) // the query was checked, so there is one
 		g.places = append(g.places, place)
@@ -70,6 +73,7 @@ func (g *grouping) push(r []api.Val) []api.Out {
 }
 
 func (g *grouping) end() []api.Out {
+	g.last = 0
 	return g.tell(func(*span) bool { return true })
 }
 

@@ -15,6 +15,11 @@ type sieve struct {
 	exprs []api.Expr
 }
 
+// newSieve is of a query's expressions, which were checked over the columns. It keeps none of what is handed in.
+func newSieve(where api.Expr, exprs []api.Expr, l []api.Col) sieve {
+	return sieve{cols: freshCols(l), where: freshExpr(where), exprs: freshExprs(exprs)}
+}
+
 // take gives what the expressions come to of a row; false: it is not let through, and they are not reckoned.
 func (s sieve) take(r []api.Val) ([]api.Val, bool, error) {
 	ok, err := s.passes(r)

@@ -47,18 +47,9 @@ func (s *span) groupOf(key []api.Val, aggs []api.Agg, types []int) (*group, erro
 		if err != nil {
 			return nil, err
 		}
-		s.groups = slices.Insert(s.groups, i, &group{key: freshAll(key), acc: acc})
+		s.groups = slices.Insert(s.groups, i, &group{key: freshVals(key), acc: acc})
 	}
 	return s.groups[i], nil
-}
-
-// freshAll is a list of the same values that shares no memory with it.
-func freshAll(l []api.Val) []api.Val {
-	var fresh []api.Val
-	for _, v := range l {
-		fresh = append(fresh, val.Fresh(v))
-	}
-	return fresh
 }
 
 // outs tells of all groups.
@@ -78,5 +69,5 @@ func (g *group) out() api.Out {
 	if err != nil {
 		return fault(err)
 	}
-	return api.Out{Row: append(freshAll(g.key), result...)}
+	return api.Out{Row: append(freshVals(g.key), result...)}
 }

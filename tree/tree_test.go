@@ -8,6 +8,7 @@ import (
 	"strconv"
 	"strings"
 	"testing"
+	"unsafe"
 
 	"sluicebook/api"
 	"sluicebook/lex"
@@ -972,6 +973,9 @@ func holdWrong(t *testing.T, e api.Expr, want api.Errno) {
 	if s, err := tree.Print(e); s != "" || plain.Told(err) != want {
 		t.Errorf("Print(%.300q): %q, %v, want %v", show(e), s, err, want)
 	}
+	if got, err := tree.Fresh(e); !alike(got, api.Expr{}) || plain.Told(err) != want {
+		t.Errorf("Fresh(%.300q): %v, %v, want %v", show(e), got, err, want)
+	}
 }
 
 // show tells an expression, whatever is wrong with it.
@@ -1291,6 +1295,62 @@ func holdFull(t *testing.T, e api.Expr) {
 	if s, err := tree.Print(e); s != "" || plain.Told(err) != api.ErrFull {
 		t.Errorf("Print: %.100q, %v, want ErrFull", s, err)
 	}
+	if got, err := tree.Fresh(e); !alike(got, api.Expr{}) || plain.Told(err) != api.ErrFull {
+		t.Errorf("Fresh: %v, want ErrFull", err)
+	}
+}
+
+// TestFresh is of P2 and P4: it is the same expression, At and all, and each of its lists and texts has memory of its own, also where those that were handed in share some.
+func TestFresh(t *testing.T) {
+	shared := []api.Expr{words("it's", 1), col("abc", 3)}
+	all := []api.Expr{op("+", 2, shared...), op("if", 0, op("=", 2, shared...), op("<", 7, shared...), op("<", 7, shared...))}
+	for _, c := range parsed {
+		all = append(all, moved(c.want))
+	}
+	for _, e := range all {
+		want := copied(e)
+		handed := roomy(e)
+		handedLists, handedTexts := memory(handed)
+		got, err := tree.Fresh(handed)
+		if err != nil || !alike(got, want) {
+			t.Errorf("Fresh(%.300q): %v, %v", show(want), got, err)
+		}
+		lists, texts := memory(got)
+		for at, times := range lists {
+			if times > 1 || handedLists[at] > 0 {
+				t.Errorf("Fresh(%.300q): it shares a list", show(want))
+			}
+		}
+		for at := range texts {
+			if handedTexts[at] > 0 {
+				t.Errorf("Fresh(%.300q): it shares a text", show(want))
+			}
+		}
+		if !alike(handed, want) || !behind(handed) {
+			t.Errorf("Fresh(%.300q): it was written into", show(want))
+		}
+	}
+}
+
+// memory counts what lies in the lists of an expression, and its texts, by where they lie.
+func memory(e api.Expr) (map[*api.Expr]int, map[*byte]int) {
+	lists, texts := map[*api.Expr]int{}, map[*byte]int{}
+	var count func(e api.Expr)
+	count = func(e api.Expr) {
+		for _, s := range []string{e.Op, e.Name, e.Val.S} {
+			if s != "" {
+				texts[unsafe.StringData(s)]++
+			}
+		}
+		for i := range e.Args[:cap(e.Args)] {
+			lists[&e.Args[:cap(e.Args)][i]]++
+		}
+		for _, a := range e.Args {
+			count(a)
+		}
+	}
+	count(e)
+	return lists, texts
 }
 
 // roomy has room behind each of its lists, and something in it.
