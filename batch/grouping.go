@@ -79,11 +79,11 @@ func (g *grouping) end() []api.Out {
 
 // tell gives what comes of the first windows, as far as they are done, and forgets them.
 func (g *grouping) tell(done func(s *span) bool) []api.Out {
-	var outs []api.Out
 	n := 0
-	for ; n < len(g.open) && done(g.open[n]); n++ {
-		outs = append(outs, g.open[n].outs()...)
+	for n < len(g.open) && done(g.open[n]) {
+		n++
 	}
+	outs := outsOf(g.open[:n])
 	g.open = slices.Delete(g.open, 0, n)
 	return outs
 }

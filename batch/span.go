@@ -52,6 +52,15 @@ func (s *span) groupOf(key []api.Val, aggs []api.Agg, types []int) (*group, erro
 	return s.groups[i], nil
 }
 
+// outsOf tells of windows, one by one.
+func outsOf(l []*span) []api.Out {
+	var outs []api.Out
+	for _, s := range l {
+		outs = append(outs, s.outs()...)
+	}
+	return outs
+}
+
 // outs tells of all groups.
 func (s *span) outs() []api.Out {
 	var l []api.Out

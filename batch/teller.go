@@ -8,10 +8,9 @@ import (
 
 // Teller goes over rows, one behind the other, however many there are. Run is of it, and so is whoever has not all rows at once: what they tell must be the same.
 type Teller struct {
-	cols []api.Col
-	push func(r []api.Val) []api.Out // of a row that is right
-	end  func() []api.Out
-	open func() int
+	cols   []api.Col
+	push   func(r []api.Val) []api.Out // of a row that is right
+	groups *grouping                   // of a query without a group one to which no row comes
 }
 
 // NewTeller makes one, of which no row has come.
@@ -39,10 +38,13 @@ func (t *Teller) Push(r []api.Val) ([]api.Out, error) {
 }
 
 // End tells what comes when there are no more rows; then it is as a new one.
-func (t *Teller) End() []api.Out { return t.end() }
+func (t *Teller) End() []api.Out { return t.groups.end() }
+
+// Peek tells what End would, and changes nothing.
+func (t *Teller) Peek() []api.Out { return outsOf(t.groups.open) }
 
 // Open tells how many windows have rows and were not told.
-func (t *Teller) Open() int { return t.open() }
+func (t *Teller) Open() int { return len(t.groups.open) }
 
 // ofCols tells of each row by itself, so that nothing is left at the end.
 func ofCols(s sieve) *Teller {
@@ -56,9 +58,9 @@ func ofCols(s sieve) *Teller {
 		}
 		return nil
 	}
-	return &Teller{cols: s.cols, push: push, end: func() []api.Out { return nil }, open: func() int { return 0 }}
+	return &Teller{cols: s.cols, push: push, groups: &grouping{}}
 }
 
 func ofGroups(g *grouping) *Teller {
-	return &Teller{cols: g.sieve.cols, push: g.push, end: g.end, open: func() int { return len(g.open) }}
+	return &Teller{cols: g.sieve.cols, push: g.push, groups: g}
 }
