@@ -6,7 +6,6 @@ import (
 	"sluicebook/api"
 	"sluicebook/query"
 	"sluicebook/tree"
-	"sluicebook/val"
 )
 
 // What is kept, or told, is made fresh here: it shares no memory with what was handed in.
@@ -33,13 +32,5 @@ func freshExpr(e api.Expr) api.Expr {
 		return api.Expr{}
 	}
 	fresh, _ := tree.Fresh(e) // the query was checked, so it is right
-	return fresh
-}
-
-func freshVals(l []api.Val) []api.Val {
-	var fresh []api.Val
-	for _, v := range l {
-		fresh = append(fresh, val.Fresh(v))
-	}
 	return fresh
 }

@@ -39,7 +39,7 @@ func (t *Teller) Known() Known {
 func (s *span) known() Window {
 	w := Window{From: s.from}
 	for _, g := range s.groups {
-		w.Groups = append(w.Groups, Group{Key: freshVals(g.key), Known: g.acc.Known()})
+		w.Groups = append(w.Groups, Group{Key: val.FreshAll(g.key), Known: g.acc.Known()})
 	}
 	return w
 }
@@ -94,7 +94,7 @@ func (g *grouping) span(w Window) (*span, error) {
 		if err != nil {
 			return nil, err
 		}
-		s.groups = append(s.groups, &group{key: freshVals(o.Key), acc: acc})
+		s.groups = append(s.groups, &group{key: val.FreshAll(o.Key), acc: acc})
 	}
 	return s, nil
 }

@@ -47,7 +47,7 @@ func (s *span) groupOf(key []api.Val, aggs []api.Agg, types []int) (*group, erro
 		if err != nil {
 			return nil, err
 		}
-		s.groups = slices.Insert(s.groups, i, &group{key: freshVals(key), acc: acc})
+		s.groups = slices.Insert(s.groups, i, &group{key: val.FreshAll(key), acc: acc})
 	}
 	return s.groups[i], nil
 }
@@ -78,5 +78,5 @@ func (g *group) out() api.Out {
 	if err != nil {
 		return fault(err)
 	}
-	return api.Out{Row: append(freshVals(g.key), result...)}
+	return api.Out{Row: append(val.FreshAll(g.key), result...)}
 }

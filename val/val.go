@@ -55,6 +55,15 @@ func Fresh(v api.Val) api.Val {
 	return v
 }
 
+// FreshAll is a list of such values, which shares no memory with what was handed in either.
+func FreshAll(l []api.Val) []api.Val {
+	var fresh []api.Val
+	for _, v := range l {
+		fresh = append(fresh, Fresh(v))
+	}
+	return fresh
+}
+
 func hasTextBytes(s string) bool {
 	for i := 0; i < len(s); i++ {
 		if s[i] < firstByte || s[i] > lastByte {

@@ -3,6 +3,7 @@ package val_test
 import (
 	"math"
 	"math/big"
+	"slices"
 	"strconv"
 	"strings"
 	"testing"
@@ -128,6 +129,28 @@ func TestFresh(t *testing.T) {
 		}
 		if v.S != "" && unsafe.StringData(got.S) == unsafe.StringData(v.S) {
 			t.Errorf("Fresh(%v): it shares memory", v)
+		}
+	}
+}
+
+// TestFreshAll is of P2 and P4: they are the same values in a list of their own, each with a text of its own; of none it is nothing.
+func TestFreshAll(t *testing.T) {
+	l := []api.Val{{}, {Type: 1, N: -5}, {Type: 3, S: "it's"}, {Type: 9, N: 9, S: "\n\xff"}, {Type: 3, S: "behind"}}
+	for n := range l {
+		handed := slices.Clone(l)
+		got := val.FreshAll(handed[:n])
+		if !slices.Equal(got, l[:n]) || n == 0 && got != nil {
+			t.Errorf("FreshAll(%v): %v", l[:n], got)
+		}
+		for i, v := range got {
+			if v.S != "" && unsafe.StringData(v.S) == unsafe.StringData(l[i].S) {
+				t.Errorf("FreshAll(%v): it shares memory", l[:n])
+			}
+			got[i].N = 77
+		}
+		_ = append(got, api.Val{Type: 9})
+		if !slices.Equal(handed, l) {
+			t.Errorf("%v was written into: %v", l, handed)
 		}
 	}
 }
